@@ -266,7 +266,7 @@ func TestP10_1Build(t *testing.T) {
 
 // P10.1: a map whose nodes are written out.
 func TestP10_1Bytes(t *testing.T) {
-	// Of a to f just d Ends at level 0.
+	// Of these keys just d Ends at level 0.
 	s := wide(t)
 	l := []api.Entry{{Key: "a", Val: "1"}, {Key: "c"}, {Key: "d", Val: "22"}, {Key: "f"}}
 	if root := builds(t, s, l); root != 3 {
